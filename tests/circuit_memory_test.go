@@ -23,6 +23,13 @@ func wiped[T any](list []T, fill T) {
 	}
 }
 
+// wipeAig writes over all lists of a circuit, and the room behind their ends.
+func wipeAig(a impl.Aig) {
+	wiped(a.Latches, impl.Latch{Next: -9900})
+	wiped(a.Ands, impl.And{A: -9900})
+	wiped(a.Bads, -9900)
+}
+
 // watchedCircuit is arguments, and what they hold.
 type watchedCircuit struct {
 	a       impl.Aig
@@ -85,9 +92,7 @@ func TestCircuitsAreLeftAsTheyAre(t *testing.T) {
 		w.still(t, "AigCnf")
 		less := impl.AigLess(w.a)
 		w.still(t, "AigLess")
-		wiped(less.Latches, impl.Latch{Next: -9900})
-		wiped(less.Ands, impl.And{A: -9900})
-		wiped(less.Bads, -9900)
+		wipeAig(less)
 		w.still(t, "what AigLess answers")
 	})
 }
@@ -97,9 +102,7 @@ func TestLessOfWhatIsLessIsNew(t *testing.T) {
 	eachCircuit(42, func(r *rand.Rand, a impl.Aig) {
 		w := watchCircuit(r, impl.AigLess(a))
 		less := impl.AigLess(w.a)
-		wiped(less.Latches, impl.Latch{Next: -9900})
-		wiped(less.Ands, impl.And{A: -9900})
-		wiped(less.Bads, -9900)
+		wipeAig(less)
 		w.still(t, "what AigLess answers")
 	})
 }
@@ -141,11 +144,8 @@ func TestNothingIsKeptOfCircuits(t *testing.T) {
 		wiped(bads, true)
 		wiped(needs, -9900)
 		wiped(can, false)
-		for _, b := range []impl.Aig{less, read} {
-			wiped(b.Latches, impl.Latch{Next: -9900})
-			wiped(b.Ands, impl.And{A: -9900})
-			wiped(b.Bads, -9900)
-		}
+		wipeAig(less)
+		wipeAig(read)
 		apart(t, "AigCnf", c.Clauses)
 		return text
 	}
