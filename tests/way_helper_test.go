@@ -99,11 +99,11 @@ func (v *moves) reached() []int {
 	return places
 }
 
-// left is of each state how many steps are left to one in which a rule is 0, -1 if none is come to: this goes from the end back.
-func (v *moves) left(rule int) []int {
+// left is of each state how many steps are left to one where it is to come to, -1 if it comes to none: this goes from the end back.
+func (v *moves) left(goal func(p int) bool) []int {
 	left := slices.Repeat([]int{-1}, len(v.states))
 	for p := range v.states {
-		if !v.good[p][rule] {
+		if goal(p) {
 			left[p] = 0
 		}
 	}
@@ -120,23 +120,28 @@ func (v *moves) left(rule int) []int {
 	return left
 }
 
-// broken is the shortest way to where a rule is 0, of such the first: each time the first state from which no more steps are left than must be; none if the rule holds.
-func (v *moves) broken(rule int) []int {
-	left := v.left(rule)
+// shortest is the shortest way from some states to where it is to come to, of such the first: each time the first state from which no more steps are left than must be; none if there is none.
+func (v *moves) shortest(from []int, goal func(p int) bool) []int {
+	left := v.left(goal)
 	most := -1
-	for _, p := range v.first {
+	for _, p := range from {
 		if left[p] >= 0 && (most < 0 || left[p] < most) {
 			most = left[p]
 		}
 	}
 	way := []int{}
-	may := v.first
+	may := from
 	for steps := most; steps >= 0; steps-- {
 		p := may[slices.IndexFunc(may, func(p int) bool { return left[p] == steps })]
 		way = append(way, p)
 		may = v.next[p]
 	}
 	return way
+}
+
+// broken is the shortest way to where a rule is 0, of such the first; none if the rule holds.
+func (v *moves) broken(rule int) []int {
+	return v.shortest(v.first, func(p int) bool { return !v.good[p][rule] })
 }
 
 // isWay is what the document says of a way.
